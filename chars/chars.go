@@ -25,3 +25,20 @@ func IsSymbol(c byte) bool { return strings.IndexByte(symbols, c) >= 0 }
 
 // OnlyMinus reports whether s consists of two or more minus signs, which begin a comment and are no operator.
 func OnlyMinus(s string) bool { return len(s) >= 2 && strings.Trim(s, "-") == "" }
+
+// Run returns the longest sequence of bytes of one kind in s from a byte on.
+func Run(s string, from int, is func(byte) bool) string {
+	end := from
+	for end < len(s) && is(s[end]) {
+		end++
+	}
+	return s[from:end]
+}
+
+// NameAt returns the identifier or the run of symbol characters in s from a byte on; it is empty if there is none.
+func NameAt(s string, from int) string {
+	if from < len(s) && IsStart(s[from]) {
+		return Run(s, from, IsWord)
+	}
+	return Run(s, from, IsSymbol)
+}

@@ -37,3 +37,28 @@ func TestOnlyMinus(t *testing.T) {
 		}
 	}
 }
+
+func TestRuns(t *testing.T) {
+	for _, test := range []struct {
+		s         string
+		from      int
+		run, name string
+	}{
+		{"", 0, "", ""},
+		{"ab", 2, "", ""},
+		{"a1' +", 0, "", "a1'"},
+		{"_A.", 0, "", "_A"},
+		{"a12+-b", 1, "12", ""},
+		{"a12+-b", 3, "", "+-"},
+		{"a12", 2, "2", ""},
+		{"'a", 0, "", ""},
+		{"(a", 0, "", ""},
+	} {
+		if got := Run(test.s, test.from, IsDigit); got != test.run {
+			t.Errorf("Run(%q, %d) = %q", test.s, test.from, got)
+		}
+		if got := NameAt(test.s, test.from); got != test.name {
+			t.Errorf("NameAt(%q, %d) = %q", test.s, test.from, got)
+		}
+	}
+}

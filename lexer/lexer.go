@@ -128,15 +128,7 @@ func (s *scanner) skip(n int) {
 }
 
 // run returns the longest sequence of bytes of one kind from here on.
-func (s *scanner) run(is func(byte) bool) string { return runAt(s.src, s.here.at, is) }
-
-func runAt(src string, from int, is func(byte) bool) string {
-	end := from
-	for end < len(src) && is(src[end]) {
-		end++
-	}
-	return src[from:end]
-}
+func (s *scanner) run(is func(byte) bool) string { return chars.Run(s.src, s.here.at, is) }
 
 // fail records a fault of the present unit; it returns false, as the states do then.
 func (s *scanner) fail(code api.Errno, name string) bool {
@@ -204,21 +196,13 @@ func (s *scanner) line() bool {
 func (s *scanner) identifier() (api.Token, bool) {
 	first := s.run(chars.IsWord)
 	point := s.here.at + len(first)
-	if !chars.IsUpper(first[0]) || point == len(s.src) || s.src[point] != '.' || !isQualified(nameAt(s.src, point+1)) {
+	if !chars.IsUpper(first[0]) || point == len(s.src) || s.src[point] != '.' || !isQualified(chars.NameAt(s.src, point+1)) {
 		return s.name("", s.here.at)
 	}
 	if len(first) > api.MaxName {
 		return api.Token{}, s.fail(api.ErrLong, first[:api.MaxName])
 	}
 	return s.name(first, point+1)
-}
-
-// nameAt returns the identifier or the run of symbol characters from a byte on; it is empty if there is none.
-func nameAt(src string, from int) string {
-	if from < len(src) && chars.IsStart(src[from]) {
-		return runAt(src, from, chars.IsWord)
-	}
-	return runAt(src, from, chars.IsSymbol)
 }
 
 // isQualified reports whether text, after a module and a point, is part of a qualified name.
@@ -229,7 +213,7 @@ func isQualified(text string) bool {
 
 // name reads the name from a byte on, with what comes before it in its unit.
 func (s *scanner) name(qual string, from int) (api.Token, bool) {
-	text := nameAt(s.src, from)
+	text := chars.NameAt(s.src, from)
 	if len(text) > api.MaxName {
 		return api.Token{}, s.fail(api.ErrLong, text[:api.MaxName])
 	}
