@@ -5,6 +5,7 @@ import (
 
 	"lazyc/api"
 	"lazyc/syntax"
+	"lazyc/trees"
 )
 
 // resolver copies trees, and resolves the sequences in them: from the inside outwards, and what is written first before what follows.
@@ -22,15 +23,11 @@ func (r *resolver) note(fault api.Fault) {
 	}
 }
 
-// expr returns the resolved expression. The order of the parts is that of the text for every form.
-func (r *resolver) expr(e api.Expr) api.Expr {
-	source := e
-	e.Pats = mapped(e.Pats, r.pat)
-	e.Decls = mapped(e.Decls, r.decl)
-	e.Kids = mapped(e.Kids, r.expr)
-	e.Alts = mapped(e.Alts, r.alt)
-	e.Stmts = mapped(e.Stmts, r.stmt)
-	e.Fields = mapped(e.Fields, r.field)
+// copier returns a copier that resolves what it copies.
+func (r *resolver) copier() *trees.Copier { return &trees.Copier{OnExpr: r.expr, OnPat: r.pat} }
+
+// expr returns an expression whose parts are resolved already.
+func (r *resolver) expr(source, e api.Expr) api.Expr {
 	switch e.Op {
 	case api.EParen:
 		return e.Kids[0]
@@ -39,9 +36,6 @@ func (r *resolver) expr(e api.Expr) api.Expr {
 	case api.ELeft, api.ERight:
 		r.section(source)
 	}
-	e.Names = slices.Clone(e.Names)
-	e.Preds = mapped(e.Preds, copyPred)
-	e.Types = mapped(e.Types, copyType)
 	return e
 }
 
@@ -98,15 +92,14 @@ func (r *resolver) section(e api.Expr) {
 	}
 }
 
+// pat returns a pattern whose parts are resolved already.
 func (r *resolver) pat(p api.Pat) api.Pat {
-	p.Kids = mapped(p.Kids, r.pat)
 	switch p.Op {
 	case api.PParen:
 		return p.Kids[0]
 	case api.PInfix:
 		return r.infixPat(p)
 	}
-	p.Names = slices.Clone(p.Names)
 	return p
 }
 
@@ -122,20 +115,4 @@ func (r *resolver) infixPat(p api.Pat) api.Pat {
 	})
 	r.note(fault)
 	return result
-}
-
-func (r *resolver) alt(a api.Alt) api.Alt {
-	return api.Alt{Pat: r.pat(a.Pat), Rhs: mapped(a.Rhs, r.rhs), Where: mapped(a.Where, r.decl)}
-}
-
-func (r *resolver) rhs(rhs api.Rhs) api.Rhs {
-	return api.Rhs{Guard: mapped(rhs.Guard, r.expr), Body: r.expr(rhs.Body)}
-}
-
-func (r *resolver) stmt(s api.Stmt) api.Stmt {
-	return api.Stmt{Op: s.Op, Pat: r.pat(s.Pat), Expr: r.expr(s.Expr), Decls: mapped(s.Decls, r.decl)}
-}
-
-func (r *resolver) field(f api.Field) api.Field {
-	return api.Field{Name: f.Name, Expr: r.expr(f.Expr)}
 }

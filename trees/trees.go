@@ -1,0 +1,122 @@
+// Package trees copies the trees of the surface language, so that a layer that changes some nodes need not name the others. It belongs to no layer.
+package trees
+
+import (
+	"slices"
+
+	"lazyc/api"
+	"lazyc/types"
+)
+
+// Copier copies well-formed trees, part by part in the order of the text. A copy shares no memory with its source.
+// A hook that is set is called for each node of its sort, after the node's parts have been copied.
+type Copier struct {
+	OnExpr func(source, copied api.Expr) api.Expr // returns what takes the place of the copy
+	OnPat  func(copied api.Pat) api.Pat           // returns what takes the place of the copy
+	OnDecl func(copied api.Decl)
+}
+
+// Module copies a module.
+func (c *Copier) Module(m api.Module) api.Module {
+	m.Exports = Map(m.Exports, copyExport)
+	m.Imports = Imports(m.Imports)
+	m.Decls = Map(m.Decls, c.Decl)
+	return m
+}
+
+// Decl copies a declaration.
+func (c *Copier) Decl(d api.Decl) api.Decl {
+	d.Names = slices.Clone(d.Names)
+	d.Cons = Map(d.Cons, copyCon)
+	d.Derive = slices.Clone(d.Derive)
+	d.Preds = Map(d.Preds, copyPred)
+	d.Type = copyType(d.Type)
+	d.Decls = Map(d.Decls, c.Decl)
+	d.Clauses = Map(d.Clauses, c.clause)
+	d.Pat = c.Pat(d.Pat)
+	d.Rhs = Map(d.Rhs, c.rhs)
+	d.Where = Map(d.Where, c.Decl)
+	if c.OnDecl != nil {
+		c.OnDecl(d)
+	}
+	return d
+}
+
+// Expr copies an expression. The order of the parts is that of the text for every form.
+func (c *Copier) Expr(e api.Expr) api.Expr {
+	source := e
+	e.Pats = Map(e.Pats, c.Pat)
+	e.Decls = Map(e.Decls, c.Decl)
+	e.Kids = Map(e.Kids, c.Expr)
+	e.Alts = Map(e.Alts, c.alt)
+	e.Stmts = Map(e.Stmts, c.stmt)
+	e.Fields = Map(e.Fields, c.field)
+	e.Names = slices.Clone(e.Names)
+	e.Neg = slices.Clone(e.Neg)
+	e.Preds = Map(e.Preds, copyPred)
+	e.Types = Map(e.Types, copyType)
+	if c.OnExpr != nil {
+		return c.OnExpr(source, e)
+	}
+	return e
+}
+
+// Pat copies a pattern.
+func (c *Copier) Pat(p api.Pat) api.Pat {
+	p.Kids = Map(p.Kids, c.Pat)
+	p.Names = slices.Clone(p.Names)
+	if c.OnPat != nil {
+		return c.OnPat(p)
+	}
+	return p
+}
+
+func (c *Copier) clause(clause api.Clause) api.Clause {
+	return api.Clause{Pats: Map(clause.Pats, c.Pat), Rhs: Map(clause.Rhs, c.rhs), Where: Map(clause.Where, c.Decl)}
+}
+
+func (c *Copier) rhs(rhs api.Rhs) api.Rhs {
+	return api.Rhs{Guard: Map(rhs.Guard, c.Expr), Body: c.Expr(rhs.Body)}
+}
+
+func (c *Copier) alt(a api.Alt) api.Alt {
+	return api.Alt{Pat: c.Pat(a.Pat), Rhs: Map(a.Rhs, c.rhs), Where: Map(a.Where, c.Decl)}
+}
+
+func (c *Copier) stmt(s api.Stmt) api.Stmt {
+	return api.Stmt{Op: s.Op, Pat: c.Pat(s.Pat), Expr: c.Expr(s.Expr), Decls: Map(s.Decls, c.Decl)}
+}
+
+func (c *Copier) field(f api.Field) api.Field {
+	return api.Field{Name: f.Name, Expr: c.Expr(f.Expr)}
+}
+
+// Imports copies import declarations.
+func Imports(list []api.Import) []api.Import {
+	return Map(list, func(i api.Import) api.Import {
+		i.Names = Map(i.Names, copyExport)
+		return i
+	})
+}
+
+func copyCon(c api.ConDecl) api.ConDecl {
+	return api.ConDecl{Name: c.Name, Fields: Map(c.Fields, copyType), Labels: slices.Clone(c.Labels)}
+}
+
+func copyExport(e api.Export) api.Export {
+	e.Subs = slices.Clone(e.Subs)
+	return e
+}
+
+func copyPred(p api.Pred) api.Pred { return api.Pred{Class: p.Class, Type: copyType(p.Type)} }
+
+func copyType(t api.Type) api.Type { return types.Apply(t) }
+
+// Map returns what f makes of the elements of a list, in their order.
+func Map[A, B any](list []A, f func(A) B) []B {
+	var results []B
+	for _, element := range list {
+		results = append(results, f(element))
+	}
+	return results
+}
