@@ -1,6 +1,9 @@
 package syntax
 
-import "lazyc/api"
+import (
+	"lazyc/api"
+	"lazyc/freevars"
+)
 
 // Binders returns the variables of a pattern, in order.
 func Binders(p api.Pat) []string { return appendBinders(nil, &p) }
@@ -43,34 +46,20 @@ func Free(e api.Expr) []string {
 	if CheckExpr(e) != api.OK {
 		return nil
 	}
-	f := finder{bound: map[string]int{}, found: map[string]bool{}}
+	f := finder{freevars.New()}
 	f.expr(&e)
-	return f.list
+	return f.Names()
 }
 
 // finder collects the free variables of well-formed trees, in the order of the text.
 type finder struct {
-	bound map[string]int // by how many scopes around the present place a name is bound
-	found map[string]bool
-	list  []string
+	*freevars.Finder
 }
 
-// occurrence notes a name where it is used.
+// occurrence notes a name where it is used; only those of variables count.
 func (f *finder) occurrence(name string) {
-	if f.bound[name] == 0 && !f.found[name] && isVariable(name) {
-		f.found[name] = true
-		f.list = append(f.list, name)
-	}
-}
-
-// inScope collects what visit visits, in a scope that binds names.
-func (f *finder) inScope(names []string, visit func()) {
-	for _, name := range names {
-		f.bound[name]++
-	}
-	visit()
-	for _, name := range names {
-		f.bound[name]--
+	if isVariable(name) {
+		f.Occurrence(name)
 	}
 }
 
@@ -81,9 +70,9 @@ func (f *finder) expr(e *api.Expr) {
 	case api.EInfix:
 		f.infix(e)
 	case api.ELam:
-		f.inScope(bindersOf(e.Pats), func() { f.exprs(e.Kids) })
+		f.InScope(bindersOf(e.Pats), func() { f.exprs(e.Kids) })
 	case api.ELet:
-		f.inScope(declared(e.Decls), func() {
+		f.InScope(declared(e.Decls), func() {
 			f.decls(e.Decls)
 			f.exprs(e.Kids)
 		})
@@ -129,12 +118,12 @@ func (f *finder) infix(e *api.Expr) {
 }
 
 func (f *finder) alt(a *api.Alt) {
-	f.inScope(Binders(a.Pat), func() { f.rhs(a.Rhs, a.Where) })
+	f.InScope(Binders(a.Pat), func() { f.rhs(a.Rhs, a.Where) })
 }
 
 // rhs collects from right-hand sides with their where part.
 func (f *finder) rhs(list []api.Rhs, where []api.Decl) {
-	f.inScope(declared(where), func() {
+	f.InScope(declared(where), func() {
 		for i := range list {
 			f.exprs(list[i].Guard)
 			f.expr(&list[i].Body)
@@ -149,7 +138,7 @@ func (f *finder) decls(list []api.Decl) {
 		d := &list[i]
 		for j := range d.Clauses {
 			c := &d.Clauses[j]
-			f.inScope(bindersOf(c.Pats), func() { f.rhs(c.Rhs, c.Where) })
+			f.InScope(bindersOf(c.Pats), func() { f.rhs(c.Rhs, c.Where) })
 		}
 		f.rhs(d.Rhs, d.Where)
 	}
@@ -165,9 +154,9 @@ func (f *finder) stmts(list []api.Stmt, last func()) {
 	switch s := &list[0]; s.Op {
 	case api.StmtGen:
 		f.expr(&s.Expr)
-		f.inScope(Binders(s.Pat), rest)
+		f.InScope(Binders(s.Pat), rest)
 	case api.StmtLet:
-		f.inScope(declared(s.Decls), func() {
+		f.InScope(declared(s.Decls), func() {
 			f.decls(s.Decls)
 			rest()
 		})

@@ -1,11 +1,10 @@
-// Package trees copies the trees of the surface language, so that a layer that changes some nodes need not name the others. It belongs to no layer.
+// Package trees copies the trees of the surface language, so that a layer that changes some nodes need not name the others; it also copies and compares types, schemes and kernel expressions. It belongs to no layer.
 package trees
 
 import (
 	"slices"
 
 	"lazyc/api"
-	"lazyc/types"
 )
 
 // Copier copies well-formed trees, part by part in the order of the text. A copy shares no memory with its source.
@@ -30,7 +29,7 @@ func (c *Copier) Decl(d api.Decl) api.Decl {
 	d.Cons = Map(d.Cons, copyCon)
 	d.Derive = slices.Clone(d.Derive)
 	d.Preds = Map(d.Preds, copyPred)
-	d.Type = copyType(d.Type)
+	d.Type = Type(d.Type)
 	d.Decls = Map(d.Decls, c.Decl)
 	d.Clauses = Map(d.Clauses, c.clause)
 	d.Pat = c.Pat(d.Pat)
@@ -54,7 +53,7 @@ func (c *Copier) Expr(e api.Expr) api.Expr {
 	e.Names = slices.Clone(e.Names)
 	e.Neg = slices.Clone(e.Neg)
 	e.Preds = Map(e.Preds, copyPred)
-	e.Types = Map(e.Types, copyType)
+	e.Types = Map(e.Types, Type)
 	if c.OnExpr != nil {
 		return c.OnExpr(source, e)
 	}
@@ -100,7 +99,7 @@ func Imports(list []api.Import) []api.Import {
 }
 
 func copyCon(c api.ConDecl) api.ConDecl {
-	return api.ConDecl{Name: c.Name, Fields: Map(c.Fields, copyType), Labels: slices.Clone(c.Labels)}
+	return api.ConDecl{Name: c.Name, Fields: Map(c.Fields, Type), Labels: slices.Clone(c.Labels)}
 }
 
 func copyExport(e api.Export) api.Export {
@@ -108,9 +107,7 @@ func copyExport(e api.Export) api.Export {
 	return e
 }
 
-func copyPred(p api.Pred) api.Pred { return api.Pred{Class: p.Class, Type: copyType(p.Type)} }
-
-func copyType(t api.Type) api.Type { return types.Apply(t) }
+func copyPred(p api.Pred) api.Pred { return api.Pred{Class: p.Class, Type: Type(p.Type)} }
 
 // Map returns what f makes of the elements of a list, in their order.
 func Map[A, B any](list []A, f func(A) B) []B {

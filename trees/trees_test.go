@@ -1,4 +1,4 @@
-package trees
+package trees_test
 
 import (
 	"reflect"
@@ -7,6 +7,7 @@ import (
 
 	"lazyc/api"
 	"lazyc/parser"
+	"lazyc/trees"
 )
 
 // everyForm is a module with every form of trees.
@@ -48,7 +49,7 @@ func slicesOf(v reflect.Value, found map[uintptr]bool) {
 // A copy is equal, and new memory.
 func TestCopy(t *testing.T) {
 	m := everyForm(t)
-	var c Copier
+	var c trees.Copier
 	copied := c.Module(m)
 	if !reflect.DeepEqual(copied, m) {
 		t.Fatalf("%v\ncopied\n%v", m, copied)
@@ -69,7 +70,7 @@ func TestCopy(t *testing.T) {
 // The hooks see every node once, in the order of the text, inner nodes before outer ones, and replace it.
 func TestHooks(t *testing.T) {
 	var seen []string
-	c := Copier{
+	c := trees.Copier{
 		OnExpr: func(source, copied api.Expr) api.Expr {
 			if copied.Op == api.EVar {
 				seen = append(seen, source.Name)
@@ -102,8 +103,8 @@ func TestHooks(t *testing.T) {
 }
 
 func TestMap(t *testing.T) {
-	got := Map([]string{"a", "bc", ""}, func(s string) int { return len(s) })
-	if !reflect.DeepEqual(got, []int{1, 2, 0}) || Map(nil, strings.ToUpper) != nil {
+	got := trees.Map([]string{"a", "bc", ""}, func(s string) int { return len(s) })
+	if !reflect.DeepEqual(got, []int{1, 2, 0}) || trees.Map(nil, strings.ToUpper) != nil {
 		t.Error(got)
 	}
 }

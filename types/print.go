@@ -1,9 +1,8 @@
 package types
 
 import (
-	"strings"
-
 	"lazyc/api"
+	"lazyc/writing"
 )
 
 // Print returns the text of a type.
@@ -22,31 +21,17 @@ func printed[T any](t T, check func(T) api.Errno, write func(*printer, T)) strin
 	}
 	var p printer
 	write(&p, t)
-	return p.out.String()
+	return p.String()
 }
 
 // printer writes valid types, kinds and schemes.
 type printer struct {
-	out strings.Builder
-}
-
-func (p *printer) text(s string) { p.out.WriteString(s) }
-
-// inParens writes what write writes, in parentheses.
-func (p *printer) inParens(write func()) {
-	p.text("(")
-	write()
-	p.text(")")
+	writing.Writer
 }
 
 // separated writes elements with commas in between.
 func separated[T any](p *printer, elements []T, write func(T)) {
-	for i, element := range elements {
-		if i > 0 {
-			p.text(", ")
-		}
-		write(element)
-	}
+	p.Separated(len(elements), ", ", func(i int) { write(elements[i]) })
 }
 
 func (p *printer) scheme(s api.Scheme) {
@@ -57,13 +42,13 @@ func (p *printer) scheme(s api.Scheme) {
 	case 0:
 	case 1:
 		p.pred(s.Preds[0])
-		p.text(" => ")
+		p.Text(" => ")
 	default:
-		p.inParens(func() { separated(p, s.Preds, p.pred) })
-		p.text(" => ")
+		p.InParens(func() { separated(p, s.Preds, p.pred) })
+		p.Text(" => ")
 	}
 	if s.Type.Op == api.TForall {
-		p.inParens(func() { p.typ(s.Type) })
+		p.InParens(func() { p.typ(s.Type) })
 		return
 	}
 	p.typ(s.Type)
@@ -71,36 +56,36 @@ func (p *printer) scheme(s api.Scheme) {
 
 // binders writes quantified variables, and the point behind them.
 func (p *printer) binders(vars []api.TyVar) {
-	p.text(forallWord)
+	p.Text(forallWord)
 	for _, v := range vars {
-		p.text(" ")
+		p.Text(" ")
 		if hasArgs(v.Kind) {
-			p.inParens(func() {
-				p.text(v.Name + " :: ")
+			p.InParens(func() {
+				p.Text(v.Name + " :: ")
 				p.kind(v.Kind)
 			})
 		} else {
-			p.text(v.Name)
+			p.Text(v.Name)
 		}
 	}
-	p.text(". ")
+	p.Text(". ")
 }
 
 func (p *printer) pred(pred api.Pred) {
-	p.text(pred.Class + " ")
+	p.Text(pred.Class + " ")
 	p.atype(pred.Type)
 }
 
 func (p *printer) kind(k api.Kind) {
 	for _, arg := range k.Args {
 		if hasArgs(arg) {
-			p.inParens(func() { p.kind(arg) })
+			p.InParens(func() { p.kind(arg) })
 		} else {
 			p.kind(arg)
 		}
-		p.text(" -> ")
+		p.Text(" -> ")
 	}
-	p.text("*")
+	p.Text("*")
 }
 
 func (p *printer) typ(t api.Type) {
@@ -114,7 +99,7 @@ func (p *printer) typ(t api.Type) {
 		p.typ(t)
 	case isFun(t):
 		p.btype(paramOf(t))
-		p.text(" -> ")
+		p.Text(" -> ")
 		p.typ(resultOf(t))
 	default:
 		p.btype(t)
@@ -128,7 +113,7 @@ func (p *printer) btype(t api.Type) {
 		return
 	}
 	p.btype(t.Kids[0])
-	p.text(" ")
+	p.Text(" ")
 	p.atype(t.Kids[1])
 }
 
@@ -150,22 +135,22 @@ func componentsOf(name string) int {
 func (p *printer) atype(t api.Type) {
 	switch {
 	case t.Op == api.TVar:
-		p.text(t.Name)
+		p.Text(t.Name)
 	case t.Op == api.TCon:
 		p.conName(t.Name)
 	case isBracketed(t):
 		p.bracketed(t)
 	default:
-		p.inParens(func() { p.typ(t) })
+		p.InParens(func() { p.typ(t) })
 	}
 }
 
 func (p *printer) conName(name string) {
 	if name == arrowName || !isBuiltin(name) && isOperatorName(name) {
-		p.inParens(func() { p.text(name) })
+		p.InParens(func() { p.Text(name) })
 		return
 	}
-	p.text(name)
+	p.Text(name)
 }
 
 // bracketed writes a list or tuple type.
@@ -175,7 +160,7 @@ func (p *printer) bracketed(t api.Type) {
 	if head.Name == listName {
 		open, end = "[", "]"
 	}
-	p.text(open)
+	p.Text(open)
 	separated(p, args, p.typ)
-	p.text(end)
+	p.Text(end)
 }
