@@ -10,11 +10,10 @@ import (
 	"lazyc/trees"
 )
 
-// The names that the result contains, or a body may contain.
+// The variable that a body may contain, and the exception that irrefutable patterns raise.
 const (
-	failName  = "fail"
-	raiseName = "raise"
-	noMatch   = "NoMatch"
+	failName = "fail"
+	noMatch  = "NoMatch"
 )
 
 // compiler translates a matrix in two steps: to a plan, and from that to a kernel expression. So it is known how often a plan is reached when it is translated.

@@ -5,6 +5,7 @@ import (
 
 	"lazyc/api"
 	"lazyc/kernel"
+	"lazyc/kernels"
 	"lazyc/trees"
 )
 
@@ -26,9 +27,7 @@ func (p given) translate(*compiler) api.Kernel { return trees.Kernel(*p.expr) }
 // raised raises NoMatch.
 type raised struct{}
 
-func (raised) translate(*compiler) api.Kernel {
-	return api.Kernel{Op: api.KApp, Kids: []api.Kernel{variable(raiseName), {Op: api.KCon, Name: noMatch}}}
-}
+func (raised) translate(*compiler) api.Kernel { return kernels.NoMatch() }
 
 // leave goes on at an exit.
 type leave struct {
@@ -37,7 +36,7 @@ type leave struct {
 
 func (p leave) translate(c *compiler) api.Kernel {
 	if p.out.name != "" {
-		return variable(p.out.name)
+		return kernels.Var(p.out.name)
 	}
 	return c.emit(p.out.rest)
 }
@@ -54,7 +53,7 @@ func (p attempt) translate(c *compiler) api.Kernel {
 	}
 	p.out.name = c.supply.Fresh(failName)
 	rest := c.emit(p.out.rest)
-	return let([]api.KBind{plain(p.out.name, rest)}, c.emit(p.first))
+	return kernels.Let([]api.KBind{kernels.Plain(p.out.name, rest)}, c.emit(p.first))
 }
 
 // test examines a variable. There is a plan for each alternative.
@@ -68,7 +67,7 @@ func (p test) translate(c *compiler) api.Kernel {
 	for i := range p.alts {
 		p.alts[i].Body = c.emit(p.plans[i])
 	}
-	return api.Kernel{Op: api.KCase, Kids: []api.Kernel{variable(p.variable)}, Alts: p.alts}
+	return kernels.Case(kernels.Var(p.variable), p.alts...)
 }
 
 // chosen is the body of a row, with an exit if the body contains fail.
@@ -99,13 +98,13 @@ func (c *compiler) bindAll(list []bound, body api.Kernel) api.Kernel {
 		if names[b.source] {
 			if copied[b.source] == "" {
 				copied[b.source] = c.supply.Fresh("v")
-				copies = append(copies, plain(copied[b.source], variable(b.source)))
+				copies = append(copies, kernels.Plain(copied[b.source], kernels.Var(b.source)))
 			}
 			b.source = copied[b.source]
 		}
-		binds = append(binds, plain(b.name, c.meaning(b)))
+		binds = append(binds, kernels.Plain(b.name, c.meaning(b)))
 	}
-	return let(copies, let(binds, body))
+	return kernels.Let(copies, kernels.Let(binds, body))
 }
 
 // effective returns the last one of the bindings of each variable, without those of a variable to itself.
@@ -125,7 +124,7 @@ func effective(list []bound) []bound {
 // meaning returns the expression for which a variable stands.
 func (c *compiler) meaning(b bound) api.Kernel {
 	if b.lazy == nil {
-		return variable(b.source)
+		return kernels.Var(b.source)
 	}
 	rows := []row{{pats: []api.Pat{*b.lazy}, want: b.name}}
 	out := &exit{rest: raised{}}
@@ -144,19 +143,4 @@ func (p part) translate(c *compiler) api.Kernel {
 		}
 	}
 	return raised{}.translate(c)
-}
-
-func variable(name string) api.Kernel { return api.Kernel{Op: api.KVar, Name: name} }
-
-// plain returns a binding without parameters and without a signature.
-func plain(name string, body api.Kernel) api.KBind {
-	return api.KBind{Name: name, Plain: true, Body: body}
-}
-
-// let returns the body in the scope of bindings, if there are any.
-func let(binds []api.KBind, body api.Kernel) api.Kernel {
-	if len(binds) == 0 {
-		return body
-	}
-	return api.Kernel{Op: api.KLet, Binds: binds, Kids: []api.Kernel{body}}
 }

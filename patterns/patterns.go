@@ -2,6 +2,8 @@
 package patterns
 
 import (
+	"slices"
+
 	"lazyc/api"
 	"lazyc/base"
 )
@@ -32,6 +34,18 @@ func (t *Table) Find(name string) (entry Entry, ok bool) {
 		t.found[name] = entry
 	}
 	return entry, entry.Con != nil
+}
+
+// Owner returns the first data type of which a constructor has a label; no built-in one has labels.
+func (t *Table) Owner(label string) (data *api.Data, ok bool) {
+	for i := range t.datas {
+		for _, con := range t.datas[i].Cons {
+			if slices.Contains(con.Labels, label) {
+				return &t.datas[i], true
+			}
+		}
+	}
+	return nil, false
 }
 
 func (t *Table) builtinDatas() []api.Data {

@@ -84,3 +84,14 @@ func TestOfRecord(t *testing.T) {
 		}
 	}
 }
+
+// The first data type with a label is its owner, whatever constructor has it.
+func TestOwner(t *testing.T) {
+	datas := []api.Data{{Name: "T", Cons: []api.Con{con("A", 0), con("B", 2, "x", "y")}}, {Name: "U", Cons: []api.Con{con("C", 1, "z"), con("D", 2, "y", "z")}}}
+	table := NewTable(datas)
+	for label, want := range map[string]*api.Data{"x": &datas[0], "y": &datas[0], "z": &datas[1], "A": nil, "": nil, ":": nil} {
+		if got, ok := table.Owner(label); got != want || ok != (want != nil) {
+			t.Errorf("%s: %v %v", label, got, ok)
+		}
+	}
+}

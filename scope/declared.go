@@ -7,6 +7,7 @@ import (
 	"lazyc/base"
 	"lazyc/names"
 	"lazyc/syntax"
+	"lazyc/trees"
 )
 
 // declaration is a declared type, class, function or variable, under its simple name; the parts are values.
@@ -58,7 +59,7 @@ func partsOfData(d *api.Decl) []string {
 		cons = append(cons, con.Name)
 		labels = append(labels, con.Labels...)
 	}
-	return append(cons, distinct(labels)...)
+	return append(cons, trees.Distinct(labels)...)
 }
 
 // methodsOf returns the methods of a class declaration, as often as they have a signature.
@@ -70,19 +71,6 @@ func methodsOf(d *api.Decl) []string {
 		}
 	}
 	return methods
-}
-
-// distinct returns the names of a list, each once, in the order of their first occurrence.
-func distinct(list []string) []string {
-	seen := map[string]bool{}
-	var once []string
-	for _, name := range list {
-		if !seen[name] {
-			seen[name] = true
-			once = append(once, name)
-		}
-	}
-	return once
 }
 
 // canDeclare reports whether all declared names can be qualified, or are built in, which is a fault of another kind.

@@ -79,7 +79,7 @@ func merged(list []api.Export) []api.Export {
 		once[at].Subs = append(once[at].Subs, export.Subs...)
 	}
 	for i := range once {
-		once[i].Subs = distinct(once[i].Subs)
+		once[i].Subs = trees.Distinct(once[i].Subs)
 	}
 	return once
 }

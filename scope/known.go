@@ -70,7 +70,7 @@ func (k known) data(d api.Data) {
 	for _, label := range labels {
 		k.owners[label] = d.Name
 	}
-	k.parts[d.Name] = append(cons, distinct(labels)...)
+	k.parts[d.Name] = append(cons, trees.Distinct(labels)...)
 }
 
 func (k known) class(c api.Class) {

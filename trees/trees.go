@@ -17,7 +17,7 @@ type Copier struct {
 
 // Module copies a module.
 func (c *Copier) Module(m api.Module) api.Module {
-	m.Exports = Map(m.Exports, copyExport)
+	m.Exports = Exports(m.Exports)
 	m.Imports = Imports(m.Imports)
 	m.Decls = Map(m.Decls, c.Decl)
 	return m
@@ -90,10 +90,13 @@ func (c *Copier) field(f api.Field) api.Field {
 	return api.Field{Name: f.Name, Expr: c.Expr(f.Expr)}
 }
 
+// Exports copies export lists.
+func Exports(list []api.Export) []api.Export { return Map(list, copyExport) }
+
 // Imports copies import declarations.
 func Imports(list []api.Import) []api.Import {
 	return Map(list, func(i api.Import) api.Import {
-		i.Names = Map(i.Names, copyExport)
+		i.Names = Exports(i.Names)
 		return i
 	})
 }
@@ -109,6 +112,26 @@ func copyExport(e api.Export) api.Export {
 
 func copyPred(p api.Pred) api.Pred { return api.Pred{Class: p.Class, Type: Type(p.Type)} }
 
+// Bound returns the names of the functions, and of the variables of patterns, that occur anywhere in a module.
+func Bound(m api.Module) []string {
+	var bound []string
+	c := Copier{
+		OnDecl: func(d api.Decl) {
+			if d.Op == api.DFun {
+				bound = append(bound, d.Name)
+			}
+		},
+		OnPat: func(p api.Pat) api.Pat {
+			if p.Op == api.PVar || p.Op == api.PAs {
+				bound = append(bound, p.Name)
+			}
+			return p
+		},
+	}
+	c.Module(m)
+	return bound
+}
+
 // Map returns what f makes of the elements of a list, in their order.
 func Map[A, B any](list []A, f func(A) B) []B {
 	var results []B
@@ -116,4 +139,17 @@ func Map[A, B any](list []A, f func(A) B) []B {
 		results = append(results, f(element))
 	}
 	return results
+}
+
+// Distinct returns the names of a list, each once, in the order of their first occurrence.
+func Distinct(list []string) []string {
+	var once []string
+	seen := map[string]bool{}
+	for _, name := range list {
+		if !seen[name] {
+			seen[name] = true
+			once = append(once, name)
+		}
+	}
+	return once
 }

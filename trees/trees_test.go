@@ -108,3 +108,29 @@ func TestMap(t *testing.T) {
 		t.Error(got)
 	}
 }
+
+// Bound has the functions and the variables of patterns, as often as they occur, but no signatures and labels.
+func TestBound(t *testing.T) {
+	want := "m m y z x w g f p q x y h z x y z x y e x k l s r"
+	if got := strings.Join(trees.Bound(everyForm(t)), " "); got != want {
+		t.Errorf("%s\nwant\n%s", got, want)
+	}
+	if got := trees.Bound(api.Module{}); got != nil {
+		t.Error(got)
+	}
+}
+
+func TestExports(t *testing.T) {
+	list := []api.Export{{Name: "f"}, {Name: "T", Subs: []string{"A", "B"}}, {Name: "U", With: true}}
+	got := trees.Exports(list)
+	if !reflect.DeepEqual(got, list) || &got[0] == &list[0] || &got[1].Subs[0] == &list[1].Subs[0] {
+		t.Error(got)
+	}
+}
+
+func TestDistinct(t *testing.T) {
+	list := strings.Fields("b a b c a")
+	if got := strings.Join(trees.Distinct(list), " "); got != "b a c" || trees.Distinct(nil) != nil {
+		t.Error(got)
+	}
+}
