@@ -1,4 +1,4 @@
-// Package trees copies the trees of the surface language, so that a layer that changes some nodes need not name the others; it also copies and compares types, schemes and kernel expressions. It belongs to no layer.
+// Package trees copies the trees of the surface language, so that a layer that changes some nodes need not name the others; it also copies and compares types, schemes and kernel expressions, and copies environments and kernel modules. It belongs to no layer.
 package trees
 
 import (
